@@ -319,8 +319,8 @@ func TestOneErrors(t *testing.T) {
 	}
 }
 
-// Promise E1: Two finds any two disks again, in the order asked for, whatever
-// stands in their places.
+// Promise E1: Two finds any two disks of small arrays again, in the order asked
+// for, whatever stands in their places.
 func TestTwo(t *testing.T) {
 	checkTwo(t, [][]byte{{0}, {0}, {4}}, 0, 1, []byte{7}, []byte{21}, []byte{1}, []byte{2})
 	checkTwo(t, [][]byte{{9}, {8}, {4}}, 1, 0, []byte{7}, []byte{21}, []byte{2}, []byte{1})
@@ -339,7 +339,8 @@ func TestTwo(t *testing.T) {
 	}
 }
 
-// Promise E1: any two of as many disks as there may be are found again.
+// Promise E1: of as many disks as there may be, each one is found again together
+// with several others, near and far.
 func TestTwoOfManyDisks(t *testing.T) {
 	disks := mixed(255, 3, 7)
 	p, q := slowParities(disks)
@@ -433,8 +434,8 @@ func TestWho(t *testing.T) {
 	checkWho(t, [][]byte{{200}}, []byte{9}, []byte{8}, 0, 0, api.ErrSum)
 }
 
-// Promise E2: every change of a single byte is found, whatever it is in, at
-// its position and at no other.
+// Promise E2: every change of a single byte of small arrays is found, whatever
+// it is in, at its position and at no other.
 func TestWhoFindsEveryChange(t *testing.T) {
 	const long = 3
 	for _, n := range []int{1, 2, 3, 9, 20} {
